@@ -402,6 +402,9 @@ func TestNoObjects(t *testing.T) {
 			g.f.Set(csr.Enable, due)
 			g.f.Set(csr.Pending, due)
 			wantNil(t, g, name)
+			// Without a step X[0] stays as well.
+			g.r.X[0] = 7
+			wantNil(t, g, name+" with X[0] = 7")
 		}
 	}
 }
@@ -489,7 +492,7 @@ func TestBusThatPanics(t *testing.T) {
 				g.put(x)
 			}
 		}
-		g.r.X[1] = data
+		g.r.X[0], g.r.X[1] = 7, data
 		was := g.state()
 		g.b.held, g.b.holds = data, true
 		if got, e := Step(g.r, g.f, &breaks{g.b, c.in}); got != (Result{}) || e != api.ErrNil {
@@ -500,6 +503,7 @@ func TestBusThatPanics(t *testing.T) {
 		}
 	}
 	g := rigOf(t, api.Insn{Op: insn.Addi, Rd: 1, Imm: 1})
+	g.r.X[0] = 7
 	was := g.state()
 	if got, e := Step(g.r, g.f, (*bus)(nil)); got != (Result{}) || e != api.ErrNil || !g.state().same(was) {
 		t.Errorf("a bus that is a nil pointer: %+v, %d", got, int(e))
@@ -542,14 +546,6 @@ func TestX0ThatIsWritten(t *testing.T) {
 	g.b.keep(8, 8, allBits)
 	if Step(g.r, g.f, g.b); g.b.number(8, 8) != 0 {
 		t.Errorf("sd x0, 8(x0) with X[0] = 7: %#x", g.b.number(8, 8))
-	}
-	for _, op := range []int{insn.Ecall, insn.Wfi} {
-		g = rigOf(t, api.Insn{Op: op})
-		g.r.X[0] = 7
-		was := g.state()
-		if Step(g.r, g.f, g.b); !g.state().same(was) {
-			t.Errorf("operation %d with X[0] = 7 changes %+v to %+v", op, was, g.state())
-		}
 	}
 }
 
