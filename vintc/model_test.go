@@ -317,7 +317,7 @@ var fewCalls = []call{
 	{what: doEnable, a: 1, b: 3, on: true},
 }
 
-// Every order of some calls, up to a length.
+// Every order of some calls of a length, which begins with every shorter one.
 func TestEveryOrder(t *testing.T) {
 	const length = 4
 	orders := 1
@@ -329,14 +329,13 @@ func TestEveryOrder(t *testing.T) {
 		for _, k := range []call{{what: doEnable, a: 0, b: 8, on: true}, {what: doEnable, a: 1, b: 3, on: true}, {what: doRaise, a: 3}} {
 			wantAlike(t, c, m, k)
 		}
-		for rest := order; ; rest /= len(fewCalls) {
+		rest := order
+		for range length {
 			wantAlike(t, c, m, fewCalls[rest%len(fewCalls)])
+			rest /= len(fewCalls)
 			for n := range 2 {
 				wantAlike(t, c, m, call{what: doLine, a: n})
 				wantAlike(t, c, m, call{what: doTold, a: 3 + 5*n})
-			}
-			if rest == 0 {
-				break
 			}
 		}
 		if t.Failed() {
